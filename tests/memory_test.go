@@ -1,0 +1,239 @@
+package tests
+
+import (
+	"reflect"
+	"testing"
+
+	"loop.example/springhead/impl"
+)
+
+// functions is all that the program answers so far.
+func functions() map[string]any {
+	return map[string]any{
+		"NameOk": impl.NameOk, "AtomOk": impl.AtomOk, "AtomPut": impl.AtomPut, "AtomGet": impl.AtomGet,
+		"RulePut": impl.RulePut, "RuleGet": impl.RuleGet, "AtomCmp": impl.AtomCmp,
+		"ProgCheck": impl.ProgCheck, "ProgNames": impl.ProgNames, "ProgHeads": impl.ProgHeads,
+		"ProgStrata": impl.ProgStrata, "ProgNeeds": impl.ProgNeeds,
+		"FactsOk": impl.FactsOk, "FactsFit": impl.FactsFit, "FactsAdd": impl.FactsAdd,
+		"FactsGone": impl.FactsGone, "FactsHas": impl.FactsHas,
+		"ChangeOk": impl.ChangeOk, "ChangeOf": impl.ChangeOf, "ChangeDo": impl.ChangeDo,
+		"ChangeBoth": impl.ChangeBoth, "ChangePut": impl.ChangePut, "ChangeGet": impl.ChangeGet,
+	}
+}
+
+// wild is any value of a type, seldom one that is ok.
+func (d *dice) wild(kind reflect.Type) reflect.Value {
+	out := reflect.New(kind).Elem()
+	switch kind.Kind() {
+	case reflect.Bool:
+		out.SetBool(d.roll(2) == 0)
+	case reflect.String:
+		out.SetString(d.one("", "a", "b", "p", "X", "not", "Xy", "abcdefghi", "a()", "p(a,X)", "p(a) if q(X) and not r()", "-a() +b() ", "+b() -a() ", "\xff\x00", ",", "((", " if "))
+	case reflect.Slice:
+		if d.roll(5) == 0 {
+			return out
+		}
+		for range d.roll(6) {
+			out.Set(reflect.Append(out, d.wild(kind.Elem())))
+		}
+	case reflect.Struct:
+		for i := range kind.NumField() {
+			out.Field(i).Set(d.wild(kind.Field(i).Type))
+		}
+	}
+	return out
+}
+
+// tame is a value of a type that is ok, mostly.
+func (d *dice) tame(kind reflect.Type) reflect.Value {
+	switch kind {
+	case reflect.TypeFor[string]():
+		return reflect.ValueOf(d.one(d.name(), impl.AtomPut(d.atom()), impl.RulePut(d.rule()), impl.ChangePut(d.change(5))))
+	case reflect.TypeFor[impl.Atom]():
+		if d.roll(2) == 0 {
+			return reflect.ValueOf(d.atom())
+		}
+		return reflect.ValueOf(d.fact())
+	case reflect.TypeFor[impl.Rule]():
+		return reflect.ValueOf(d.rule())
+	case reflect.TypeFor[[]impl.Atom]():
+		return reflect.ValueOf(d.facts(8))
+	case reflect.TypeFor[[]impl.Rule]():
+		return reflect.ValueOf(d.fineRules(4))
+	case reflect.TypeFor[impl.Change]():
+		return reflect.ValueOf(d.change(8))
+	}
+	return d.wild(kind)
+}
+
+// roomy copies a value so that behind the end of each of its lists there is room, with something in it.
+func roomy(v reflect.Value) reflect.Value {
+	out := reflect.New(v.Type()).Elem()
+	switch v.Kind() {
+	case reflect.Slice:
+		if v.IsNil() {
+			return out
+		}
+		room := reflect.MakeSlice(v.Type(), v.Len()+3, v.Len()+3)
+		for i := range v.Len() {
+			room.Index(i).Set(roomy(v.Index(i)))
+		}
+		for i := range 3 {
+			room.Index(v.Len() + i).Set(newDice(99).wild(v.Type().Elem()))
+		}
+		out.Set(room.Slice(0, v.Len()))
+	case reflect.Struct:
+		for i := range v.NumField() {
+			out.Field(i).Set(roomy(v.Field(i)))
+		}
+	default:
+		out.Set(v)
+	}
+	return out
+}
+
+// whole copies a value, each list with all the room behind its end.
+func whole(v reflect.Value) reflect.Value {
+	out := reflect.New(v.Type()).Elem()
+	switch v.Kind() {
+	case reflect.Slice:
+		if v.IsNil() {
+			return out
+		}
+		out.Set(reflect.MakeSlice(v.Type(), v.Cap(), v.Cap()))
+		for i := range v.Cap() {
+			out.Index(i).Set(whole(v.Slice(0, v.Cap()).Index(i)))
+		}
+	case reflect.Struct:
+		for i := range v.NumField() {
+			out.Field(i).Set(whole(v.Field(i)))
+		}
+	default:
+		out.Set(v)
+	}
+	return out
+}
+
+// span is memory from a place up to another one.
+type span struct{ from, to uintptr }
+
+// spans is the memory of all lists of a value, with the room behind their ends.
+func spans(v reflect.Value) []span {
+	var out []span
+	switch v.Kind() {
+	case reflect.Slice:
+		if v.Cap() > 0 {
+			from := v.Pointer()
+			out = append(out, span{from, from + uintptr(v.Cap())*v.Type().Elem().Size()})
+		}
+		for i := range v.Cap() {
+			out = append(out, spans(v.Slice(0, v.Cap()).Index(i))...)
+		}
+	case reflect.Struct:
+		for i := range v.NumField() {
+			out = append(out, spans(v.Field(i))...)
+		}
+	}
+	return out
+}
+
+// meet says whether memory of an answer meets memory of arguments, or other memory of the answer.
+func meet(answer, arguments []span) bool {
+	for i, a := range answer {
+		for _, b := range append(answer[i+1:len(answer):len(answer)], arguments...) {
+			if a.from < b.to && b.from < a.to {
+				return true
+			}
+		}
+	}
+	return false
+}
+
+// checkCall calls a function and looks at the memory of its arguments and answers.
+func checkCall(t *testing.T, name string, f reflect.Value, args []reflect.Value) []reflect.Value {
+	t.Helper()
+	defer func() {
+		if x := recover(); x != nil {
+			t.Fatalf("%s%v: panic: %v", name, args, x)
+		}
+	}()
+	var before []reflect.Value
+	var held, made []span
+	for _, a := range args {
+		before = append(before, whole(a))
+		held = append(held, spans(a)...)
+	}
+	answers := f.Call(args)
+	for i, a := range args {
+		if !reflect.DeepEqual(before[i].Interface(), whole(a).Interface()) {
+			t.Fatalf("%s%v: argument %d was written into", name, args, i)
+		}
+	}
+	for _, a := range answers {
+		made = append(made, spans(a)...)
+	}
+	if meet(made, held) {
+		t.Fatalf("%s%v: shared memory in %v", name, args, answers)
+	}
+	return answers
+}
+
+func TestMemoryAndPanics(t *testing.T) {
+	for name, function := range functions() {
+		f := reflect.ValueOf(function)
+		d := newDice(40)
+		for round := range 600 {
+			var args []reflect.Value
+			for i := range f.Type().NumIn() {
+				value := d.tame(f.Type().In(i))
+				if round%3 == 0 || round == 1 {
+					value = d.wild(f.Type().In(i))
+				} else if round == 2 {
+					value = reflect.Zero(f.Type().In(i))
+				}
+				args = append(args, roomy(value))
+			}
+			first := checkCall(t, name, f, args)
+			for i, again := range checkCall(t, name, f, args) {
+				expect(t, name, again.Interface(), first[i].Interface())
+			}
+		}
+	}
+}
+
+func TestMemoryOfListsThatShare(t *testing.T) {
+	shared := []impl.Term{{Name: "a"}}
+	list := []impl.Atom{{Name: "a", Args: shared}, {Name: "b", Args: shared}}
+	c := impl.Change{Comes: list, Goes: []impl.Atom{{Name: "c", Args: shared}}}
+	in := func(args ...any) []reflect.Value {
+		var out []reflect.Value
+		for _, a := range args {
+			out = append(out, reflect.ValueOf(a))
+		}
+		return out
+	}
+	one := impl.Atom{Name: "aa", Args: shared}
+	checkCall(t, "FactsAdd", reflect.ValueOf(impl.FactsAdd), in(list, one))
+	checkCall(t, "FactsAdd there", reflect.ValueOf(impl.FactsAdd), in(list, list[0]))
+	checkCall(t, "FactsGone", reflect.ValueOf(impl.FactsGone), in(list, list[0]))
+	checkCall(t, "FactsGone none", reflect.ValueOf(impl.FactsGone), in(list, one))
+	checkCall(t, "ChangeOf", reflect.ValueOf(impl.ChangeOf), in(c.Comes, c.Goes))
+	checkCall(t, "ChangeDo", reflect.ValueOf(impl.ChangeDo), in(list, c))
+	checkCall(t, "ChangeBoth", reflect.ValueOf(impl.ChangeBoth), in(c, c))
+}
+
+func TestLargeArguments(t *testing.T) {
+	many := make([]impl.Rule, 100000)
+	for i := range many {
+		many[i] = readRule("p()")
+	}
+	expect(t, "rules", impl.ProgCheck(many), impl.ProgMany)
+	many[len(many)-1] = impl.Rule{}
+	expect(t, "rules, the last not ok", impl.ProgCheck(many), impl.ProgRule)
+	wide := impl.Atom{Name: "p", Args: make([]impl.Term, 1000000)}
+	expect(t, "atom", impl.AtomOk(wide), false)
+	expect(t, "atom", impl.AtomPut(wide), "")
+	list := make([]impl.Atom, 1000000)
+	expect(t, "facts", impl.FactsOk(list), false)
+	expect(t, "change", impl.ChangeOk(impl.Change{Comes: list, Goes: list}), false)
+}
