@@ -226,19 +226,27 @@ func same(a, b any) bool {
 
 // plain copies a value with nil for each empty list.
 func plain(v reflect.Value) reflect.Value {
+	return rebuild(v, func(list reflect.Value) reflect.Value {
+		if list.Len() == 0 {
+			return reflect.Zero(list.Type())
+		}
+		out := reflect.MakeSlice(list.Type(), list.Len(), list.Len())
+		for i := range list.Len() {
+			out.Index(i).Set(plain(list.Index(i)))
+		}
+		return out
+	})
+}
+
+// rebuild copies a value, each of its outermost lists as a function does.
+func rebuild(v reflect.Value, copyList func(reflect.Value) reflect.Value) reflect.Value {
 	out := reflect.New(v.Type()).Elem()
 	switch v.Kind() {
 	case reflect.Slice:
-		if v.Len() == 0 {
-			return out
-		}
-		out.Set(reflect.MakeSlice(v.Type(), v.Len(), v.Len()))
-		for i := range v.Len() {
-			out.Index(i).Set(plain(v.Index(i)))
-		}
+		out.Set(copyList(v))
 	case reflect.Struct:
 		for i := range v.NumField() {
-			out.Field(i).Set(plain(v.Field(i)))
+			out.Field(i).Set(rebuild(v.Field(i), copyList))
 		}
 	default:
 		out.Set(v)

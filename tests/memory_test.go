@@ -68,50 +68,33 @@ func (d *dice) tame(kind reflect.Type) reflect.Value {
 
 // roomy copies a value so that behind the end of each of its lists there is room, with something in it.
 func roomy(v reflect.Value) reflect.Value {
-	out := reflect.New(v.Type()).Elem()
-	switch v.Kind() {
-	case reflect.Slice:
-		if v.IsNil() {
-			return out
+	return rebuild(v, func(list reflect.Value) reflect.Value {
+		if list.IsNil() {
+			return list
 		}
-		room := reflect.MakeSlice(v.Type(), v.Len()+3, v.Len()+3)
-		for i := range v.Len() {
-			room.Index(i).Set(roomy(v.Index(i)))
+		room := reflect.MakeSlice(list.Type(), list.Len()+3, list.Len()+3)
+		for i := range list.Len() {
+			room.Index(i).Set(roomy(list.Index(i)))
 		}
 		for i := range 3 {
-			room.Index(v.Len() + i).Set(newDice(99).wild(v.Type().Elem()))
+			room.Index(list.Len() + i).Set(newDice(99).wild(list.Type().Elem()))
 		}
-		out.Set(room.Slice(0, v.Len()))
-	case reflect.Struct:
-		for i := range v.NumField() {
-			out.Field(i).Set(roomy(v.Field(i)))
-		}
-	default:
-		out.Set(v)
-	}
-	return out
+		return room.Slice(0, list.Len())
+	})
 }
 
 // whole copies a value, each list with all the room behind its end.
 func whole(v reflect.Value) reflect.Value {
-	out := reflect.New(v.Type()).Elem()
-	switch v.Kind() {
-	case reflect.Slice:
-		if v.IsNil() {
-			return out
+	return rebuild(v, func(list reflect.Value) reflect.Value {
+		if list.IsNil() {
+			return list
 		}
-		out.Set(reflect.MakeSlice(v.Type(), v.Cap(), v.Cap()))
-		for i := range v.Cap() {
-			out.Index(i).Set(whole(v.Slice(0, v.Cap()).Index(i)))
+		out := reflect.MakeSlice(list.Type(), list.Cap(), list.Cap())
+		for i := range list.Cap() {
+			out.Index(i).Set(whole(list.Slice(0, list.Cap()).Index(i)))
 		}
-	case reflect.Struct:
-		for i := range v.NumField() {
-			out.Field(i).Set(whole(v.Field(i)))
-		}
-	default:
-		out.Set(v)
-	}
-	return out
+		return out
+	})
 }
 
 // span is memory from a place up to another one.
