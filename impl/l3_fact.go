@@ -204,14 +204,21 @@ func ChangeOf(a []Atom, b []Atom) Change {
 
 // ChangeDo is facts behind a change.
 func ChangeDo(list []Atom, c Change) []Atom {
+	out, _ := changeDone(list, c)
+	return out
+}
+
+// changeDone is facts behind a change; false if facts or change are not ok, or it is too much. That
+// tells no facts from nothing, which ChangeDo does not.
+func changeDone(list []Atom, c Change) ([]Atom, bool) {
 	if !FactsOk(list) || !ChangeOk(c) {
-		return nil
+		return nil, false
 	}
 	out := factList(list...).without(factList(c.Goes...)).with(factList(c.Comes...)).items
 	if !FactsOk(out) {
-		return nil
+		return nil, false
 	}
-	return copyAtoms(out)
+	return copyAtoms(out), true
 }
 
 // ChangeBoth is two changes, one behind the other.

@@ -18,6 +18,7 @@ func functions() map[string]any {
 		"FactsGone": impl.FactsGone, "FactsHas": impl.FactsHas,
 		"ChangeOk": impl.ChangeOk, "ChangeOf": impl.ChangeOf, "ChangeDo": impl.ChangeDo,
 		"ChangeBoth": impl.ChangeBoth, "ChangePut": impl.ChangePut, "ChangeGet": impl.ChangeGet,
+		"Eval": impl.Eval, "Rounds": impl.Rounds, "Once": impl.Once, "Delta": impl.Delta,
 	}
 }
 
@@ -44,8 +45,18 @@ func (d *dice) wild(kind reflect.Type) reflect.Value {
 	return out
 }
 
-// tame is a value of a type that is ok, mostly.
+// tame is a value of a type that is ok, mostly; half of all rules, facts and changes fit each other.
 func (d *dice) tame(kind reflect.Type) reflect.Value {
+	if d.roll(2) == 0 {
+		switch kind {
+		case reflect.TypeFor[[]impl.Rule]():
+			return reflect.ValueOf(d.evalRules(5, 2))
+		case reflect.TypeFor[[]impl.Atom]():
+			return reflect.ValueOf(d.evalFacts(8))
+		case reflect.TypeFor[impl.Change]():
+			return reflect.ValueOf(d.evalChange(5))
+		}
+	}
 	switch kind {
 	case reflect.TypeFor[string]():
 		return reflect.ValueOf(d.one(d.name(), impl.AtomPut(d.atom()), impl.RulePut(d.rule()), impl.ChangePut(d.change(5))))
@@ -203,6 +214,13 @@ func TestMemoryOfListsThatShare(t *testing.T) {
 	checkCall(t, "ChangeOf", reflect.ValueOf(impl.ChangeOf), in(c.Comes, c.Goes))
 	checkCall(t, "ChangeDo", reflect.ValueOf(impl.ChangeDo), in(list, c))
 	checkCall(t, "ChangeBoth", reflect.ValueOf(impl.ChangeBoth), in(c, c))
+	// The program's answers would share terms if it copied them from rules, or from what is given.
+	heads := []impl.Rule{{Head: impl.Atom{Name: "d", Args: shared}}, {Head: impl.Atom{Name: "e", Args: shared}}}
+	checkCall(t, "Eval", reflect.ValueOf(impl.Eval), in(heads, list))
+	checkCall(t, "Rounds", reflect.ValueOf(impl.Rounds), in(heads, list))
+	checkCall(t, "Once", reflect.ValueOf(impl.Once), in(heads, list))
+	checkCall(t, "Delta", reflect.ValueOf(impl.Delta), in(heads, list, c))
+	checkCall(t, "Delta of none", reflect.ValueOf(impl.Delta), in(heads, []impl.Atom(nil), c))
 }
 
 func TestLargeArguments(t *testing.T) {
@@ -219,4 +237,9 @@ func TestLargeArguments(t *testing.T) {
 	list := make([]impl.Atom, 1000000)
 	expect(t, "facts", impl.FactsOk(list), false)
 	expect(t, "change", impl.ChangeOk(impl.Change{Comes: list, Goes: list}), false)
+	_, ok := impl.Eval(many, list)
+	expect(t, "Eval", ok, false)
+	_, ok = impl.Delta(many, list, impl.Change{Comes: list, Goes: list})
+	expect(t, "Delta", ok, false)
+	expect(t, "Once", len(impl.Once(many, list)), 0)
 }
