@@ -125,6 +125,11 @@ func AtomPut(a Atom) string {
 	if !AtomOk(a) {
 		return ""
 	}
+	return atomText(a)
+}
+
+// atomText is AtomPut of an atom, be it ok or not.
+func atomText(a Atom) string {
 	names := make([]string, len(a.Args))
 	for i, t := range a.Args {
 		names[i] = t.Name
@@ -242,7 +247,7 @@ func AtomCmp(a Atom, b Atom) int {
 	return compareAtoms(a, b)
 }
 
-// compareAtoms is AtomCmp of atoms that are known to be ok.
+// compareAtoms is AtomCmp of atoms, be they ok or not.
 func compareAtoms(a Atom, b Atom) int {
 	if c := strings.Compare(a.Name, b.Name); c != 0 {
 		return c
@@ -250,7 +255,7 @@ func compareAtoms(a Atom, b Atom) int {
 	return slices.CompareFunc(a.Args, b.Args, compareTerms)
 }
 
-// compareTerms needs no look at Var: names of words and variables begin with unlike letters.
+// compareTerms needs no look at Var: names of words and variables that are ok begin with unlike letters.
 func compareTerms(a Term, b Term) int {
 	return strings.Compare(a.Name, b.Name)
 }
@@ -265,6 +270,15 @@ func copyAtoms(list []Atom) []Atom {
 	var out []Atom
 	for _, a := range list {
 		out = append(out, copyAtom(a))
+	}
+	return out
+}
+
+// copyParts is parts in memory of their own.
+func copyParts(body []Part) []Part {
+	var out []Part
+	for _, p := range body {
+		out = append(out, Part{Not: p.Not, Atom: copyAtom(p.Atom)})
 	}
 	return out
 }

@@ -1,6 +1,7 @@
 package tests
 
 import (
+	"math"
 	"reflect"
 	"testing"
 
@@ -19,6 +20,10 @@ func functions() map[string]any {
 		"ChangeOk": impl.ChangeOk, "ChangeOf": impl.ChangeOf, "ChangeDo": impl.ChangeDo,
 		"ChangeBoth": impl.ChangeBoth, "ChangePut": impl.ChangePut, "ChangeGet": impl.ChangeGet,
 		"Eval": impl.Eval, "Rounds": impl.Rounds, "Once": impl.Once, "Delta": impl.Delta,
+		"AskOk": impl.AskOk, "AskVars": impl.AskVars, "Ask": impl.Ask, "AskPut": impl.AskPut,
+		"AskGet": impl.AskGet, "AskRule": impl.AskRule,
+		"ProofOk": impl.ProofOk, "ProofFind": impl.ProofFind, "ProofSize": impl.ProofSize,
+		"ProofNeeds": impl.ProofNeeds, "ProofPut": impl.ProofPut,
 	}
 }
 
@@ -28,13 +33,20 @@ func (d *dice) wild(kind reflect.Type) reflect.Value {
 	switch kind.Kind() {
 	case reflect.Bool:
 		out.SetBool(d.roll(2) == 0)
+	case reflect.Int:
+		out.SetInt([]int64{-1, 0, 1, 2, 7, 8, -2, math.MinInt64, math.MaxInt64}[d.roll(9)])
 	case reflect.String:
 		out.SetString(d.one("", "a", "b", "p", "X", "not", "Xy", "abcdefghi", "a()", "p(a,X)", "p(a) if q(X) and not r()", "-a() +b() ", "+b() -a() ", "\xff\x00", ",", "((", " if "))
 	case reflect.Slice:
 		if d.roll(5) == 0 {
 			return out
 		}
-		for range d.roll(6) {
+		count := d.roll(6)
+		if kind.Elem() == reflect.TypeFor[impl.Proof]() {
+			// A proof that has more than one in it on average would have no end.
+			count = d.roll(2) * d.roll(4)
+		}
+		for range count {
 			out.Set(reflect.Append(out, d.wild(kind.Elem())))
 		}
 	case reflect.Struct:
@@ -59,7 +71,7 @@ func (d *dice) tame(kind reflect.Type) reflect.Value {
 	}
 	switch kind {
 	case reflect.TypeFor[string]():
-		return reflect.ValueOf(d.one(d.name(), impl.AtomPut(d.atom()), impl.RulePut(d.rule()), impl.ChangePut(d.change(5))))
+		return reflect.ValueOf(d.one(d.name(), impl.AtomPut(d.atom()), impl.RulePut(d.rule()), impl.ChangePut(d.change(5)), impl.AskPut(d.askBody(4, "X", "Y"))))
 	case reflect.TypeFor[impl.Atom]():
 		if d.roll(2) == 0 {
 			return reflect.ValueOf(d.atom())
@@ -73,6 +85,10 @@ func (d *dice) tame(kind reflect.Type) reflect.Value {
 		return reflect.ValueOf(d.fineRules(4))
 	case reflect.TypeFor[impl.Change]():
 		return reflect.ValueOf(d.change(8))
+	case reflect.TypeFor[[]impl.Part]():
+		return reflect.ValueOf(d.askBody(impl.BodyMax, "X", "Y", "Z"))
+	case reflect.TypeFor[impl.Proof]():
+		return reflect.ValueOf(d.anyProof(3))
 	}
 	return d.wild(kind)
 }
@@ -195,6 +211,25 @@ func TestMemoryAndPanics(t *testing.T) {
 	}
 }
 
+// TestMemoryOfProofs is of rules, facts and proofs that fit each other.
+func TestMemoryOfProofs(t *testing.T) {
+	d := newDice(41)
+	forProofs(d, 60, true, func(list []impl.Rule, given, all []impl.Atom, proofs []impl.Proof) {
+		room := func(x any) reflect.Value { return roomy(reflect.ValueOf(x)) }
+		body := d.evalRule([]string{"e", "t", "q"}, []string{"s"}, 2).Body
+		checkCall(t, "Ask", reflect.ValueOf(impl.Ask), []reflect.Value{room(all), room(body)})
+		for _, p := range proofs {
+			checkCall(t, "ProofFind", reflect.ValueOf(impl.ProofFind), []reflect.Value{room(list), room(given), room(p.Fact)})
+			for _, q := range []impl.Proof{p, d.spoiled(p, all)} {
+				checkCall(t, "ProofOk", reflect.ValueOf(impl.ProofOk), []reflect.Value{room(list), room(given), room(q)})
+				for _, f := range []any{impl.ProofSize, impl.ProofNeeds, impl.ProofPut} {
+					checkCall(t, "of a proof", reflect.ValueOf(f), []reflect.Value{room(q)})
+				}
+			}
+		}
+	})
+}
+
 func TestMemoryOfListsThatShare(t *testing.T) {
 	shared := []impl.Term{{Name: "a"}}
 	list := []impl.Atom{{Name: "a", Args: shared}, {Name: "b", Args: shared}}
@@ -221,6 +256,28 @@ func TestMemoryOfListsThatShare(t *testing.T) {
 	checkCall(t, "Once", reflect.ValueOf(impl.Once), in(heads, list))
 	checkCall(t, "Delta", reflect.ValueOf(impl.Delta), in(heads, list, c))
 	checkCall(t, "Delta of none", reflect.ValueOf(impl.Delta), in(heads, []impl.Atom(nil), c))
+	body := []impl.Part{{Atom: list[0]}, {Atom: list[1]}, {Not: true, Atom: one}}
+	checkCall(t, "AskRule", reflect.ValueOf(impl.AskRule), in("x", body))
+	twice := impl.Proof{Fact: list[0], Kids: []impl.Proof{{Fact: list[0], Rule: -1}, {Fact: list[1], Rule: -1}}}
+	checkCall(t, "ProofNeeds", reflect.ValueOf(impl.ProofNeeds), in(twice))
+	same := []impl.Rule{{Head: impl.Atom{Name: "z"}, Body: body[:1]}, {Head: impl.Atom{Name: "y"}, Body: readRule("p() if z() and z() and a(a)").Body}}
+	checkCall(t, "ProofFind", reflect.ValueOf(impl.ProofFind), in(same, list, readAtom("y()")))
+}
+
+// TestProofsThatAreTooGreat is of proofs that are too deep for calls, or have too many facts to be counted.
+func TestProofsThatAreTooGreat(t *testing.T) {
+	list, given := rules("p() if p()", "q() if q() and q()"), atoms("p()", "q()")
+	deep := chain(1000000)
+	expect(t, "deep", impl.ProofSize(deep), 1000000)
+	expect(t, "deep", impl.ProofPut(deep), "")
+	expect(t, "deep", impl.ProofOk(list, given, deep), false)
+	expect(t, "deep", impl.ProofNeeds(deep), atoms("p()"))
+	broad := impl.Proof{Fact: readAtom("q()"), Rule: -1}
+	for range 100 {
+		broad = impl.Proof{Fact: readAtom("q()"), Rule: 1, Kids: []impl.Proof{broad, broad}}
+	}
+	expect(t, "broad", impl.ProofPut(broad) == "", true)
+	expect(t, "broad", impl.ProofOk(list, given, broad), false)
 }
 
 func TestLargeArguments(t *testing.T) {
