@@ -439,7 +439,7 @@ func TestP53AskForFacts(t *testing.T) {
 			there++
 		}
 	}
-	if there < 300 || there > 1200 {
+	if there < 300 {
 		t.Fatal("too few of interest:", there)
 	}
 }
