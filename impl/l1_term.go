@@ -282,3 +282,12 @@ func copyParts(body []Part) []Part {
 	}
 	return out
 }
+
+// copyRules is rules in memory of their own.
+func copyRules(list []Rule) []Rule {
+	var out []Rule
+	for _, r := range list {
+		out = append(out, Rule{Head: copyAtom(r.Head), Body: copyParts(r.Body)})
+	}
+	return out
+}

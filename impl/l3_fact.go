@@ -147,6 +147,11 @@ func FactsFit(rules []Rule, list []Atom) bool {
 		return false
 	}
 	counts, _ := argCounts(rules)
+	return fit(counts, list)
+}
+
+// fit says whether atoms have as many terms as their names; one that no rule has may have any number.
+func fit(counts map[string]int, list []Atom) bool {
 	for _, a := range list {
 		if n, named := counts[a.Name]; named && n != len(a.Args) {
 			return false
@@ -240,4 +245,9 @@ func ChangeBoth(a Change, b Change) (Change, bool) {
 func laterWins(earlier []Atom, later []Atom, opposite []Atom) []Atom {
 	kept := factList(earlier...).without(factList(opposite...))
 	return copyAtoms(kept.with(factList(later...)).items)
+}
+
+// copyChange is a change in memory of its own.
+func copyChange(c Change) Change {
+	return Change{Comes: copyAtoms(c.Comes), Goes: copyAtoms(c.Goes)}
 }

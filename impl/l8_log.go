@@ -1,6 +1,10 @@
 package impl
 
-import "strings"
+import (
+	"iter"
+	"strconv"
+	"strings"
+)
 
 // LogMax is how many bytes a log has at most.
 const LogMax = 400000
@@ -79,20 +83,88 @@ func ChangeGet(text string) (Change, bool) {
 
 // Sum is the sum of a text.
 func Sum(text string) int {
-	return 0
+	sum := 1
+	for i := range len(text) {
+		sum = (sum*31 + int(text[i]) + 7) % 1000003
+	}
+	return sum
 }
 
 // LogPut is a change under a time as bytes of a log.
 func LogPut(time int, c Change) string {
-	return ""
+	if time < 0 || time > timeMax || !ChangeOk(c) {
+		return ""
+	}
+	text := logTime(time) + ChangePut(c)
+	return text + strconv.Itoa(Sum(text)) + "\n"
+}
+
+// logTime is how a record begins.
+func logTime(time int) string {
+	return strconv.Itoa(time) + ":"
+}
+
+// record reads the record of a time; false if there is none.
+func (r *logReader) record(time int) (Change, bool) {
+	text, ok := r.until('\n')
+	if !ok {
+		return Change{}, false
+	}
+	rest, ok := strings.CutPrefix(text, logTime(time))
+	if !ok {
+		return Change{}, false
+	}
+	c, ok := ChangeGet(rest[:strings.LastIndexByte(rest, ' ')+1])
+	if !ok || LogPut(time, c) != text+"\n" {
+		return Change{}, false
+	}
+	return c, true
+}
+
+// records goes through the changes of whole records, from time 0 on, and where each of them ends.
+func (r *logReader) records() iter.Seq2[Change, int] {
+	return func(yield func(Change, int) bool) {
+		for time := 0; ; time++ {
+			c, ok := r.record(time)
+			if !ok || !yield(c, int(r.Size())-r.Len()) {
+				return
+			}
+		}
+	}
 }
 
 // LogGet reads a log as far as it is whole, and how many bytes that takes.
 func LogGet(text string) ([]Change, int) {
-	return nil, 0
+	if len(text) > LogMax {
+		return nil, 0
+	}
+	var list []Change
+	size := 0
+	for c, end := range newLogReader(text).records() {
+		list = append(list, c)
+		size = end
+	}
+	return list, size
 }
 
 // LogBase is the base of rules that a log makes; false if it cannot be.
 func LogBase(rules []Rule, text string) (Base, bool) {
-	return Base{}, false
+	if ProgCheck(rules) != ProgFine {
+		return Base{}, false
+	}
+	list, _ := LogGet(text)
+	if len(list) == 0 {
+		return BaseNew(rules), true
+	}
+	// Of fine rules alone too much may follow, and then nothing can be committed.
+	h, ok := historyOf(BaseNew(rules))
+	if !ok {
+		return Base{}, false
+	}
+	for _, c := range list {
+		if isNothing(c) || h.commit(Txn{From: h.Time, Change: c}) != TxnFine {
+			return Base{}, false
+		}
+	}
+	return copyBase(h.Base), true
 }
