@@ -3,6 +3,7 @@ package tests
 import (
 	"math"
 	"reflect"
+	"strings"
 	"testing"
 
 	"loop.example/springhead/impl"
@@ -24,6 +25,10 @@ func functions() map[string]any {
 		"AskGet": impl.AskGet, "AskRule": impl.AskRule,
 		"ProofOk": impl.ProofOk, "ProofFind": impl.ProofFind, "ProofSize": impl.ProofSize,
 		"ProofNeeds": impl.ProofNeeds, "ProofPut": impl.ProofPut,
+		"BaseNew": impl.BaseNew, "BaseOk": impl.BaseOk, "BaseAt": impl.BaseAt, "TxnBegin": impl.TxnBegin,
+		"TxnOk": impl.TxnOk, "TxnSees": impl.TxnSees, "TxnAdd": impl.TxnAdd, "TxnGone": impl.TxnGone,
+		"TxnAsk": impl.TxnAsk, "TxnEnd": impl.TxnEnd,
+		"Sum": impl.Sum, "LogPut": impl.LogPut, "LogGet": impl.LogGet, "LogBase": impl.LogBase,
 	}
 }
 
@@ -71,7 +76,7 @@ func (d *dice) tame(kind reflect.Type) reflect.Value {
 	}
 	switch kind {
 	case reflect.TypeFor[string]():
-		return reflect.ValueOf(d.one(d.name(), impl.AtomPut(d.atom()), impl.RulePut(d.rule()), impl.ChangePut(d.change(5)), impl.AskPut(d.askBody(4, "X", "Y"))))
+		return reflect.ValueOf(d.one(d.name(), impl.AtomPut(d.atom()), impl.RulePut(d.rule()), impl.ChangePut(d.change(5)), impl.AskPut(d.askBody(4, "X", "Y")), logOf(d.changes(3)...), logOf(d.evalChange(3))))
 	case reflect.TypeFor[impl.Atom]():
 		if d.roll(2) == 0 {
 			return reflect.ValueOf(d.atom())
@@ -89,6 +94,10 @@ func (d *dice) tame(kind reflect.Type) reflect.Value {
 		return reflect.ValueOf(d.askBody(impl.BodyMax, "X", "Y", "Z"))
 	case reflect.TypeFor[impl.Proof]():
 		return reflect.ValueOf(d.anyProof(3))
+	case reflect.TypeFor[impl.Base]():
+		return reflect.ValueOf(d.past(d.roll(4)).base)
+	case reflect.TypeFor[impl.Txn]():
+		return reflect.ValueOf(impl.Txn{From: d.roll(4), Change: d.evalChange(3)})
 	}
 	return d.wild(kind)
 }
@@ -230,6 +239,40 @@ func TestMemoryOfProofs(t *testing.T) {
 	})
 }
 
+// TestMemoryOfTransactions is of bases and transactions that fit each other.
+func TestMemoryOfTransactions(t *testing.T) {
+	d := newDice(42)
+	forTxns(newDice(43), 150, func(p past, x impl.Txn, seen map[string]bool, a impl.Atom) {
+		base, txn := reflect.ValueOf(p.base), reflect.ValueOf(x)
+		for _, value := range []reflect.Value{txn, reflect.ValueOf(d.spoiledTxn(p))} {
+			for name, f := range map[string]any{"TxnOk": impl.TxnOk, "TxnSees": impl.TxnSees, "TxnEnd": impl.TxnEnd} {
+				checkCall(t, name, reflect.ValueOf(f), []reflect.Value{roomy(base), roomy(value)})
+			}
+			for name, f := range map[string]any{"TxnAdd": impl.TxnAdd, "TxnGone": impl.TxnGone} {
+				checkCall(t, name, reflect.ValueOf(f), []reflect.Value{roomy(base), roomy(value), roomy(reflect.ValueOf(a))})
+			}
+		}
+		body := reflect.ValueOf([]impl.Part{{Atom: a}, {Atom: readAtom("e(X,Y)")}})
+		checkCall(t, "TxnAsk", reflect.ValueOf(impl.TxnAsk), []reflect.Value{roomy(base), roomy(txn), roomy(body)})
+		for time := p.first() - 1; time <= p.base.Time+1; time++ {
+			checkCall(t, "BaseAt", reflect.ValueOf(impl.BaseAt), []reflect.Value{roomy(base), reflect.ValueOf(time)})
+		}
+	})
+}
+
+// TestMemoryOfFullBases is of a base whose Hist has as many changes as are known, and room behind them.
+func TestMemoryOfFullBases(t *testing.T) {
+	p := pastOf(rules("r(X) if p(X)"), 0, toggles("p(a)", impl.HistMax)...)
+	for _, c := range []impl.Change{comes("p(b)"), comes("p(a)"), {}} {
+		for from := p.first() - 1; from <= p.base.Time+1; from++ {
+			args := []reflect.Value{roomy(reflect.ValueOf(p.base)), roomy(reflect.ValueOf(impl.Txn{From: from, Change: c}))}
+			checkCall(t, "TxnEnd", reflect.ValueOf(impl.TxnEnd), args)
+		}
+	}
+	list := roomy(reflect.ValueOf(p.base.Rules))
+	checkCall(t, "LogBase", reflect.ValueOf(impl.LogBase), []reflect.Value{list, reflect.ValueOf(logOf(toggles("p(a)", 2*impl.HistMax+1)...))})
+}
+
 func TestMemoryOfListsThatShare(t *testing.T) {
 	shared := []impl.Term{{Name: "a"}}
 	list := []impl.Atom{{Name: "a", Args: shared}, {Name: "b", Args: shared}}
@@ -262,6 +305,24 @@ func TestMemoryOfListsThatShare(t *testing.T) {
 	checkCall(t, "ProofNeeds", reflect.ValueOf(impl.ProofNeeds), in(twice))
 	same := []impl.Rule{{Head: impl.Atom{Name: "z"}, Body: body[:1]}, {Head: impl.Atom{Name: "y"}, Body: readRule("p() if z() and z() and a(a)").Body}}
 	checkCall(t, "ProofFind", reflect.ValueOf(impl.ProofFind), in(same, list, readAtom("y()")))
+	// A base whose facts, changes and rules all share terms, and a transaction that does so too.
+	b := impl.Base{Rules: heads, Time: 2, Given: list, Hist: []impl.Change{{Comes: list[:1]}, {Comes: list[1:], Goes: c.Goes}}}
+	x := impl.Txn{From: 1, Change: impl.Change{Comes: []impl.Atom{one}, Goes: list[:1]}}
+	expect(t, "fits", impl.TxnOk(b, x), true)
+	checkCall(t, "BaseNew", reflect.ValueOf(impl.BaseNew), in(heads))
+	checkCall(t, "LogBase", reflect.ValueOf(impl.LogBase), in(heads, logOf(impl.Change{Comes: list})))
+	for _, f := range []any{impl.TxnSees, impl.TxnEnd} {
+		checkCall(t, "of a transaction", reflect.ValueOf(f), in(b, x))
+		checkCall(t, "of a transaction that is not ok", reflect.ValueOf(f), in(b, impl.Txn{From: 2, Change: x.Change}))
+	}
+	for _, f := range []any{impl.TxnAdd, impl.TxnGone} {
+		for _, a := range []impl.Atom{one, list[1], c.Goes[0], {Name: "x", Args: shared}, {Name: "d"}} {
+			checkCall(t, "in a transaction", reflect.ValueOf(f), in(b, x, a))
+		}
+	}
+	for _, time := range []int{0, 1, 2} {
+		checkCall(t, "BaseAt", reflect.ValueOf(impl.BaseAt), in(b, time))
+	}
 }
 
 // TestProofsThatAreTooGreat is of proofs that are too deep for calls, or have too many facts to be counted.
@@ -299,4 +360,14 @@ func TestLargeArguments(t *testing.T) {
 	_, ok = impl.Delta(many, list, impl.Change{Comes: list, Goes: list})
 	expect(t, "Delta", ok, false)
 	expect(t, "Once", len(impl.Once(many, list)), 0)
+	changes := make([]impl.Change, 1000000)
+	expect(t, "BaseOk", impl.BaseOk(impl.Base{Rules: many, Given: list, Time: lastTime, Hist: changes}), false)
+	expect(t, "BaseOk", impl.BaseOk(impl.Base{Time: lastTime, Hist: changes}), false)
+	expect(t, "TxnOk", impl.TxnOk(impl.Base{}, impl.Txn{Change: impl.Change{Comes: list, Goes: list}}), false)
+	expect(t, "LogPut", impl.LogPut(0, impl.Change{Comes: list}), "")
+	text := strings.Repeat("0:1\n", 1000000)
+	_, size := impl.LogGet(text)
+	expect(t, "LogGet", size, 0)
+	_, ok = impl.LogBase(many, text)
+	expect(t, "LogBase", ok, false)
 }
