@@ -95,13 +95,8 @@ func LogPut(time int, c Change) string {
 	if time < 0 || time > timeMax || !ChangeOk(c) {
 		return ""
 	}
-	text := logTime(time) + ChangePut(c)
+	text := strconv.Itoa(time) + ":" + ChangePut(c)
 	return text + strconv.Itoa(Sum(text)) + "\n"
-}
-
-// logTime is how a record begins.
-func logTime(time int) string {
-	return strconv.Itoa(time) + ":"
 }
 
 // record reads the record of a time; false if there is none.
@@ -110,10 +105,8 @@ func (r *logReader) record(time int) (Change, bool) {
 	if !ok {
 		return Change{}, false
 	}
-	rest, ok := strings.CutPrefix(text, logTime(time))
-	if !ok {
-		return Change{}, false
-	}
+	// That time and sum are right is seen when all is put again.
+	_, rest, _ := strings.Cut(text, ":")
 	c, ok := ChangeGet(rest[:strings.LastIndexByte(rest, ' ')+1])
 	if !ok || LogPut(time, c) != text+"\n" {
 		return Change{}, false

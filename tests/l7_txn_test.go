@@ -267,6 +267,13 @@ func badBases() map[string]impl.Base {
 	return out
 }
 
+func TestLimitsAndCodes(t *testing.T) {
+	limits := []int{impl.NameMax, impl.ArgMax, impl.BodyMax, impl.RuleMax, impl.TextMax, impl.GivenMax, impl.AllMax, impl.ProofMax, impl.HistMax, impl.LogMax}
+	expect(t, "limits", limits, []int{8, 3, 4, 8, 1500, 40, 300, 60, 30, 400000})
+	codes := []int{impl.TxnFine, impl.TxnBad, impl.TxnThere, impl.TxnNone, impl.TxnClash, impl.TxnMany, impl.TxnOld}
+	expect(t, "codes", codes, []int{0, 1, 2, 3, 4, 5, 6})
+}
+
 func TestP28BasesThatAreOk(t *testing.T) {
 	for name, b := range goodBases() {
 		expect(t, name, impl.BaseOk(b), true)

@@ -269,6 +269,10 @@ func TestMemoryOfFullBases(t *testing.T) {
 			checkCall(t, "TxnEnd", reflect.ValueOf(impl.TxnEnd), args)
 		}
 	}
+	full := reflect.ValueOf(impl.Base{Given: numbered("p", 0, impl.GivenMax)})
+	x := reflect.ValueOf(impl.Txn{Change: impl.Change{Comes: atoms("q(b)"), Goes: atoms("p(003)")}})
+	answers := checkCall(t, "TxnAdd", reflect.ValueOf(impl.TxnAdd), []reflect.Value{roomy(full), roomy(x), roomy(reflect.ValueOf(readAtom("q(c)")))})
+	expect(t, "TxnAdd", answers[1].Int(), int64(impl.TxnMany))
 	list := roomy(reflect.ValueOf(p.base.Rules))
 	checkCall(t, "LogBase", reflect.ValueOf(impl.LogBase), []reflect.Value{list, reflect.ValueOf(logOf(toggles("p(a)", 2*impl.HistMax+1)...))})
 }
