@@ -140,12 +140,8 @@ func LogGet(text string) ([]Change, int) {
 	return list, size
 }
 
-// LogBase is the base of rules that a log makes; false if it cannot be.
-func LogBase(rules []Rule, text string) (Base, bool) {
-	if ProgCheck(rules) != ProgFine {
-		return Base{}, false
-	}
-	list, _ := LogGet(text)
+// committed is the base of rules that are fine which changes make; false if it cannot be.
+func committed(rules []Rule, list []Change) (Base, bool) {
 	if len(list) == 0 {
 		return BaseNew(rules), true
 	}
@@ -160,4 +156,13 @@ func LogBase(rules []Rule, text string) (Base, bool) {
 		}
 	}
 	return copyBase(h.Base), true
+}
+
+// LogBase is the base of rules that a log makes; false if it cannot be.
+func LogBase(rules []Rule, text string) (Base, bool) {
+	if ProgCheck(rules) != ProgFine {
+		return Base{}, false
+	}
+	list, _ := LogGet(text)
+	return committed(rules, list)
 }
