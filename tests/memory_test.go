@@ -9,7 +9,7 @@ import (
 	"loop.example/springhead/impl"
 )
 
-// functions is all that the program answers so far.
+// functions is all that the program answers.
 func functions() map[string]any {
 	return map[string]any{
 		"NameOk": impl.NameOk, "AtomOk": impl.AtomOk, "AtomPut": impl.AtomPut, "AtomGet": impl.AtomGet,
@@ -29,6 +29,8 @@ func functions() map[string]any {
 		"TxnOk": impl.TxnOk, "TxnSees": impl.TxnSees, "TxnAdd": impl.TxnAdd, "TxnGone": impl.TxnGone,
 		"TxnAsk": impl.TxnAsk, "TxnEnd": impl.TxnEnd,
 		"Sum": impl.Sum, "LogPut": impl.LogPut, "LogGet": impl.LogGet, "LogBase": impl.LogBase,
+		"ServeNew": impl.ServeNew, "ServeOk": impl.ServeOk, "ServeDo": impl.ServeDo, "ServePlay": impl.ServePlay,
+		"ServeAsk": impl.ServeAsk, "Session": impl.Session,
 	}
 }
 
@@ -98,6 +100,14 @@ func (d *dice) tame(kind reflect.Type) reflect.Value {
 		return reflect.ValueOf(d.past(d.roll(4)).base)
 	case reflect.TypeFor[impl.Txn]():
 		return reflect.ValueOf(impl.Txn{From: d.roll(4), Change: d.evalChange(3)})
+	case reflect.TypeFor[impl.Server]():
+		return reflect.ValueOf(d.served(d.roll(4)).server())
+	case reflect.TypeFor[impl.Event]():
+		return reflect.ValueOf(d.event(d.served(0)))
+	case reflect.TypeFor[[]impl.Event]():
+		return reflect.ValueOf(d.events(servedNew(nil), 12))
+	case reflect.TypeFor[[]string]():
+		return reflect.ValueOf(d.lines(servedNew(nil), 12))
 	}
 	return d.wild(kind)
 }
@@ -277,6 +287,62 @@ func TestMemoryOfFullBases(t *testing.T) {
 	checkCall(t, "LogBase", reflect.ValueOf(impl.LogBase), []reflect.Value{list, reflect.ValueOf(logOf(toggles("p(a)", 2*impl.HistMax+1)...))})
 }
 
+// TestServeMemory is of servers and events that fit each other.
+func TestServeMemory(t *testing.T) {
+	d := newDice(44)
+	room := func(x any) reflect.Value { return roomy(reflect.ValueOf(x)) }
+	for range 60 {
+		s := d.served(d.roll(6))
+		for range 6 {
+			server := room(s.server())
+			checkCall(t, "ServeOk", reflect.ValueOf(impl.ServeOk), []reflect.Value{server})
+			for client := range impl.ClientMax {
+				body := room([]impl.Part{{Atom: readAtom("e(X,Y)")}, {Not: true, Atom: d.evalAtom([]string{"e", "t"}, []string{"X", "Y"})}})
+				checkCall(t, "ServeAsk", reflect.ValueOf(impl.ServeAsk), []reflect.Value{server, reflect.ValueOf(client), body})
+			}
+			for kind := range 9 {
+				e := d.event(s)
+				e.Kind = kind
+				checkCall(t, "ServeDo", reflect.ValueOf(impl.ServeDo), []reflect.Value{server, room(e)})
+			}
+			s.happen(d.event(s))
+		}
+		list := s.base.Rules
+		events := d.events(servedNew(list), 30)
+		checkCall(t, "ServePlay", reflect.ValueOf(impl.ServePlay), []reflect.Value{room(list), room(events)})
+	}
+}
+
+// TestServeMemoryThatIsShared is of a server all of whose lists have the same terms, and one change.
+func TestServeMemoryThatIsShared(t *testing.T) {
+	term := []impl.Term{{Name: "a"}}
+	p, q, r := impl.Atom{Name: "p", Args: term}, impl.Atom{Name: "q", Args: term}, impl.Atom{Name: "r", Args: term}
+	one, seen := impl.Change{Comes: []impl.Atom{p}}, []impl.Atom{r}
+	more := impl.Change{Comes: []impl.Atom{q}}
+	list := []impl.Rule{{Head: r, Body: []impl.Part{{Atom: p}}}, {Head: impl.Atom{Name: "t", Args: term}, Body: []impl.Part{{Atom: q}}}}
+	s := impl.Server{Base: impl.Base{Rules: list, Time: 1, Given: one.Comes, Hist: []impl.Change{one}}, Log: logOf(one)}
+	for client := range impl.ClientMax {
+		s.Opens = append(s.Opens, impl.Open{Client: client, Txn: impl.Txn{From: 1, Change: more}})
+		s.Watches = append(s.Watches, impl.Watch{Client: client, Name: "r", Seen: seen}, impl.Watch{Client: client, Name: "t"})
+	}
+	expect(t, "ok", impl.ServeOk(s), true)
+	for kind := range 9 {
+		for _, e := range []impl.Event{{}, {Client: 3, Atom: p, Name: "p", Bytes: 100}, {Client: 1, Atom: q, Name: "r"}, {Client: 2, Atom: r, Name: "t"}, {Client: 0, Atom: impl.Atom{Name: "x", Args: term}, Name: "0"}} {
+			e.Kind = kind
+			for _, args := range [][]reflect.Value{{reflect.ValueOf(s), reflect.ValueOf(e)}, {roomy(reflect.ValueOf(s)), roomy(reflect.ValueOf(e))}} {
+				answers := checkCall(t, "ServeDo", reflect.ValueOf(impl.ServeDo), args)
+				if kind == impl.ServeEnd {
+					expect(t, "told", answers[1].Len(), impl.ClientMax)
+				}
+			}
+		}
+	}
+	events := []impl.Event{watch(0, "x"), begin(1), {Kind: impl.ServeAdd, Client: 1, Atom: p}, {Kind: impl.ServeAdd, Client: 1, Atom: q}, end(1), watch(1, "r"), watch(2, "r"), begin(3)}
+	checkCall(t, "ServeNew", reflect.ValueOf(impl.ServeNew), []reflect.Value{reflect.ValueOf(list)})
+	checkCall(t, "ServePlay", reflect.ValueOf(impl.ServePlay), []reflect.Value{reflect.ValueOf(list), reflect.ValueOf(events)})
+	checkCall(t, "ServeAsk", reflect.ValueOf(impl.ServeAsk), []reflect.Value{reflect.ValueOf(s), reflect.ValueOf(1), reflect.ValueOf([]impl.Part{{Atom: p}, {Atom: q}})})
+}
+
 func TestMemoryOfListsThatShare(t *testing.T) {
 	shared := []impl.Term{{Name: "a"}}
 	list := []impl.Atom{{Name: "a", Args: shared}, {Name: "b", Args: shared}}
@@ -369,7 +435,14 @@ func TestLargeArguments(t *testing.T) {
 	expect(t, "BaseOk", impl.BaseOk(impl.Base{Time: lastTime, Hist: changes}), false)
 	expect(t, "TxnOk", impl.TxnOk(impl.Base{}, impl.Txn{Change: impl.Change{Comes: list, Goes: list}}), false)
 	expect(t, "LogPut", impl.LogPut(0, impl.Change{Comes: list}), "")
+	server := impl.Server{Opens: make([]impl.Open, 1000000), Watches: make([]impl.Watch, 1000000)}
+	expect(t, "ServeOk", impl.ServeOk(server), false)
+	_, _, code := impl.ServeDo(server, begin(0))
+	expect(t, "ServeDo", code, impl.TxnBad)
+	expect(t, "ServePlay", impl.ServePlay(many, make([]impl.Event, 1000000)), impl.Server{})
 	text := strings.Repeat("0:1\n", 1000000)
+	expect(t, "ServeOk", impl.ServeOk(impl.Server{Log: text}), false)
+	expect(t, "Session", impl.Session([]string{"rule " + text, text, "ask 0 " + text}), "what\nwhat\nno\n")
 	_, size := impl.LogGet(text)
 	expect(t, "LogGet", size, 0)
 	_, ok = impl.LogBase(many, text)
